@@ -1,0 +1,135 @@
+package impl
+
+import (
+	"strings"
+	"sync"
+)
+
+const MaxText = 60000
+
+const (
+	groupBits  = 7
+	groupMask  = 1<<groupBits - 1
+	moreGroups = 1 << groupBits
+	maxGroups  = 10
+	fixedSize  = 4
+	crcPoly    = 0x82f63b78
+)
+
+// The table is the same for every call, so it is kept once made.
+var (
+	crcOnce  sync.Once
+	crcWords [256]uint32
+)
+
+func PutVar(n uint64) string {
+	var groups [maxGroups]byte
+	last := 0
+	for n >= moreGroups {
+		groups[last] = byte(n) | moreGroups
+		n >>= groupBits
+		last++
+	}
+	groups[last] = byte(n)
+	return string(groups[:last+1])
+}
+
+func TakeVar(s string) (uint64, string, bool) {
+	n, size := varAt(s)
+	if size == 0 {
+		return 0, "", false
+	}
+	return n, strings.Clone(s[size:]), true
+}
+
+// varAt tells the number that s begins with and how many bytes it has, 0 bytes
+// when there is none. It copies nothing, so that a long text can be read by it
+// piece by piece.
+func varAt(s string) (uint64, int) {
+	var n uint64
+	for i := range min(len(s), maxGroups) {
+		group := uint64(s[i] & groupMask)
+		// Nine groups hold 63 bits, which leaves one bit to the tenth.
+		if i == maxGroups-1 && group > 1 {
+			return 0, 0
+		}
+		n |= group << (groupBits * i)
+		if s[i] >= moreGroups {
+			continue
+		}
+		if group == 0 && i > 0 {
+			return 0, 0
+		}
+		return n, i + 1
+	}
+	return 0, 0
+}
+
+func PutFixed(x uint32) string {
+	return string([]byte{byte(x), byte(x >> 8), byte(x >> 16), byte(x >> 24)})
+}
+
+func TakeFixed(s string) (uint32, string, bool) {
+	x, ok := fixedAt(s)
+	if !ok {
+		return 0, "", false
+	}
+	return x, strings.Clone(s[fixedSize:]), true
+}
+
+// fixedAt is TakeFixed without a copy of what stands behind.
+func fixedAt(s string) (uint32, bool) {
+	if len(s) < fixedSize {
+		return 0, false
+	}
+	return uint32(s[0]) | uint32(s[1])<<8 | uint32(s[2])<<16 | uint32(s[3])<<24, true
+}
+
+func Crc(data string) uint32 {
+	crcOnce.Do(func() { crcWords = makeCrcWords() })
+	register := ^uint32(0)
+	for i := range len(data) {
+		register = crcWords[byte(register)^data[i]] ^ register>>8
+	}
+	return ^register
+}
+
+// makeCrcWords tells what eight moves make of each lowest byte; the upper bytes
+// of a register are only moved by them, so the table needs no more words.
+func makeCrcWords() [256]uint32 {
+	var words [256]uint32
+	for low := range words {
+		word := uint32(low)
+		for range 8 {
+			fallen := word & 1
+			word >>= 1
+			if fallen == 1 {
+				word ^= crcPoly
+			}
+		}
+		words[low] = word
+	}
+	return words
+}
+
+func PutText(s string) string {
+	return PutVar(uint64(len(s))) + s
+}
+
+func TakeText(s string) (string, string, bool) {
+	begin, end, ok := textAt(s)
+	if !ok {
+		return "", "", false
+	}
+	return strings.Clone(s[begin:end]), strings.Clone(s[end:]), true
+}
+
+// textAt tells where the text that s begins with stands in it, without a copy.
+func textAt(s string) (int, int, bool) {
+	n, begin := varAt(s)
+	// The number is held against the limits ahead of any sum: it may be too great for an int.
+	if begin == 0 || n > MaxText || n > uint64(len(s)-begin) {
+		return 0, 0, false
+	}
+	return begin, begin + int(n), true
+}
