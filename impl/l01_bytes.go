@@ -16,7 +16,8 @@ const (
 	crcPoly    = 0x82f63b78
 )
 
-// The table is the same for every call, so it is kept once made.
+// The table is the same for every call, so it is kept once made. Only
+// CrcByTable reads it: what all else answers hangs on nothing that is kept.
 var (
 	crcOnce  sync.Once
 	crcWords [256]uint32
@@ -86,6 +87,28 @@ func fixedAt(s string) (uint32, bool) {
 }
 
 func Crc(data string) uint32 {
+	register := ^uint32(0)
+	for i := range len(data) {
+		register = crcMoved(register ^ uint32(data[i]))
+	}
+	return ^register
+}
+
+// crcMoved is the register once it was moved eight times.
+func crcMoved(register uint32) uint32 {
+	for range 8 {
+		fallen := register & 1
+		register >>= 1
+		if fallen == 1 {
+			register ^= crcPoly
+		}
+	}
+	return register
+}
+
+// CrcByTable is Crc by a step for each byte, not eight: for long data, and to
+// hold the one way against the other.
+func CrcByTable(data string) uint32 {
 	crcOnce.Do(func() { crcWords = makeCrcWords() })
 	register := ^uint32(0)
 	for i := range len(data) {
@@ -99,15 +122,7 @@ func Crc(data string) uint32 {
 func makeCrcWords() [256]uint32 {
 	var words [256]uint32
 	for low := range words {
-		word := uint32(low)
-		for range 8 {
-			fallen := word & 1
-			word >>= 1
-			if fallen == 1 {
-				word ^= crcPoly
-			}
-		}
-		words[low] = word
+		words[low] = crcMoved(uint32(low))
 	}
 	return words
 }

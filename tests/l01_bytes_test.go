@@ -241,11 +241,45 @@ func TestP1OneBitTurnedOverHasAnotherSum(t *testing.T) {
 	}
 }
 
+// sameBothWays holds the sum that is worked out bit by bit against the one by the table.
+func sameBothWays(t *testing.T, data string) {
+	t.Helper()
+	if plain, byTable := impl.Crc(data), impl.CrcByTable(data); plain != byTable {
+		t.Fatalf("of %.40q Crc is %x, CrcByTable %x", data, plain, byTable)
+	}
+}
+
+func TestP1BothWaysToASumTellTheSame(t *testing.T) {
+	if impl.CrcByTable("123456789") != 0xe3069283 || impl.CrcByTable("") != 0 {
+		t.Error(impl.CrcByTable("123456789"), impl.CrcByTable(""))
+	}
+	sameBothWays(t, "")
+	for one := range 256 {
+		sameBothWays(t, string([]byte{byte(one)}))
+		sameBothWays(t, string([]byte{0, byte(one)}))
+		sameBothWays(t, string([]byte{byte(one), 0xff}))
+	}
+	r := rand.New(rand.NewSource(5))
+	for _, size := range []int{3, 4, 7, 8, 57, 63, 64, 65, 300, 4000, impl.MaxText} {
+		data := make([]byte, size)
+		sameBothWays(t, string(data))
+		for range 10 {
+			r.Read(data)
+			sameBothWays(t, string(data))
+		}
+	}
+}
+
 func TestP1SumsAreTheSameWhoeverAsksFirst(t *testing.T) {
 	var group sync.WaitGroup
-	sums := make([]uint32, 16)
+	sums := make([]uint32, 32)
 	for i := range sums {
-		group.Go(func() { sums[i] = impl.Crc("123456789") })
+		group.Go(func() {
+			sums[i] = impl.Crc("123456789")
+			if i%2 == 1 {
+				sums[i] = impl.CrcByTable("123456789")
+			}
+		})
 	}
 	group.Wait()
 	for i, sum := range sums {
