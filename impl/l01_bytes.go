@@ -1,6 +1,7 @@
 package impl
 
 import (
+	"math"
 	"strings"
 	"sync"
 )
@@ -147,4 +148,56 @@ func textAt(s string) (int, int, bool) {
 		return 0, 0, false
 	}
 	return begin, begin + int(n), true
+}
+
+// A reader takes one thing behind the other from the beginning of rest. What is
+// not there is told as zero, and the reader remembers that it was missing, so
+// that a caller asks once, at the end.
+type reader struct {
+	rest    string
+	missing bool
+}
+
+// number is a number of PutVar that an int64 holds.
+func (r *reader) number() int64 {
+	n, size := varAt(r.rest)
+	if size == 0 || n > math.MaxInt64 {
+		r.lose()
+		return 0
+	}
+	r.rest = r.rest[size:]
+	return int64(n)
+}
+
+// single is one byte.
+func (r *reader) single() byte {
+	if r.rest == "" {
+		r.lose()
+		return 0
+	}
+	b := r.rest[0]
+	r.rest = r.rest[1:]
+	return b
+}
+
+// text is a copy of a text of PutText.
+func (r *reader) text() string {
+	begin, end, ok := textAt(r.rest)
+	if !ok {
+		r.lose()
+		return ""
+	}
+	text := strings.Clone(r.rest[begin:end])
+	r.rest = r.rest[end:]
+	return text
+}
+
+// lose leaves nothing to read, so that all that is asked behind it is missing too.
+func (r *reader) lose() {
+	*r = reader{missing: true}
+}
+
+// done tells whether all was there and nothing is left.
+func (r *reader) done() bool {
+	return !r.missing && r.rest == ""
 }

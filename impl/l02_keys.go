@@ -103,3 +103,10 @@ func SeekEntry(list []Entry, k Key) int64 {
 	place, _ := slices.BinarySearchFunc(list, k, func(e Entry, k Key) int { return keyOrder(e.Key, k) })
 	return int64(place)
 }
+
+func copyEntry(e Entry) Entry {
+	return Entry{
+		Key:   Key{User: strings.Clone(e.Key.User), Seq: e.Key.Seq, Kind: e.Key.Kind},
+		Value: strings.Clone(e.Value),
+	}
+}
