@@ -110,3 +110,11 @@ func copyEntry(e Entry) Entry {
 		Value: strings.Clone(e.Value),
 	}
 }
+
+func copyRow(list []Entry) []Entry {
+	var fresh []Entry
+	for _, e := range list {
+		fresh = append(fresh, copyEntry(e))
+	}
+	return fresh
+}
