@@ -248,7 +248,7 @@ func storesByHand() []namedDisk {
 
 // storesAtLimits have as much of something as there may be, or nearly.
 func storesAtLimits() []namedDisk {
-	batch, whole := []impl.Op{set("x", "1"), del("y"), set("z", "3")}, strings.Repeat("w", 200000)
+	batch := []impl.Op{set("x", "1"), del("y"), set("z", "3")}
 	var list []namedDisk
 	for _, many := range []int{380, 381, 396, 397, 398, 400} {
 		list = append(list,
@@ -295,12 +295,8 @@ func storesAtLimits() []namedDisk {
 		list = append(list, namedDisk{fmt.Sprint(many, " files"), s.disk()}, namedDisk{fmt.Sprint(many, " files with manifest.new"), s.without("file10").with("manifest.new", "x").disk()},
 			namedDisk{fmt.Sprint(many, " files, torn"), s.with("log-7", batchLog(9, batch)+"x").disk()})
 	}
-	used := 0
-	for _, file := range few.disk().Live {
-		used += len(file.Data)
-	}
 	for _, spare := range []int{0, 1, 40, 60, 200, 300, 400} {
-		list = append(list, namedDisk{fmt.Sprint("room for ", spare, " bytes"), few.with("other", whole[:200000-used-spare]).disk()})
+		list = append(list, namedDisk{fmt.Sprint("room for ", spare, " bytes"), packedStore(few, spare).disk()})
 	}
 	for _, many := range []int{190, 195, 197, 198, 199, 200} {
 		for word, s := range map[string]storeDraft{"": few, " and files": few.with("b", "1", "c", "2", "table-8", "x"), " and a torn log": few.with("log-7", "x")} {
@@ -1100,28 +1096,45 @@ func TestP16VersionsThatAreSwitchedTo(t *testing.T) {
 	}
 }
 
-func TestP16CodesThatAreTold(t *testing.T) {
-	tables, good := draftOfStore(8, "", fewTables()...), batchLog(9, fewBatches()...)
-	full, torn := inTables(399, ""), tables.with("log-7", good+"x")
-	late := tables
-	late.version.Next = 999999
-	wide := bareStore(versionOf(2, 0, 1)).with("log-1", wideLog(1, 15))
-	busy := func(many int, s storeDraft) impl.Disk {
-		return diskByHand(s.disk().Live, slices.Repeat([]impl.DOp{behind("other", "")}, many)...)
+// A codeCase is an act, and the code that it is to tell.
+type codeCase struct {
+	word string
+	d    impl.Disk
+	a    impl.Act
+	code int64
+}
+
+func holdCodes(t *testing.T, cases []codeCase) {
+	t.Helper()
+	for _, c := range cases {
+		got, code := holdDone(t, c.word, c.d, c.a)
+		if code != c.code {
+			t.Errorf("%s: %d, not %d", c.word, code, c.code)
+		}
+		if code != impl.StOk && code != impl.StPower && !sameDisk(got, c.d) {
+			t.Errorf("%s: %s", c.word, brief(got))
+		}
 	}
-	crowded := synced(append(manyFiles(60-len(tables.disk().Live)), tables.without("log-7").with("log-7", good).disk().Live...))
-	packed := tables.with("log-7", good)
+}
+
+// busyDisk has the files of a store, and another one, for which so many ops were done.
+func busyDisk(many int, s storeDraft) impl.Disk {
+	return diskByHand(s.disk().Live, slices.Repeat([]impl.DOp{behind("other", "")}, many)...)
+}
+
+// packedStore is s with so few bytes left on its disk.
+func packedStore(s storeDraft, spare int) storeDraft {
 	used := 0
-	for _, f := range packed.disk().Live {
+	for _, f := range s.disk().Live {
 		used += len(f.Data)
 	}
-	packed = packed.with("other", strings.Repeat("w", 200000-used-30))
-	for _, c := range []struct {
-		word string
-		d    impl.Disk
-		a    impl.Act
-		code int64
-	}{
+	return s.with("other", strings.Repeat("w", 200000-used-spare))
+}
+
+func TestP16CodesOfNewStoresAndBatches(t *testing.T) {
+	tables, full := draftOfStore(8, "", fewTables()...), inTables(399, "")
+	torn, packed := tables.with("log-7", batchLog(9, fewBatches()...)+"x"), packedStore(tables.with("log-7", batchLog(9, fewBatches()...)), 30)
+	holdCodes(t, []codeCase{
 		{"new, a store is there", tables.disk(), acting(impl.AcNew), impl.StThere},
 		{"new, a manifest that is none is there", synced(filesIn("manifest", "")), acting(impl.AcNew), impl.StThere},
 		{"new, a store is there, and no power", tables.disk(), powered(acting(impl.AcNew), 0), impl.StThere},
@@ -1139,12 +1152,24 @@ func TestP16CodesThatAreTold(t *testing.T) {
 		{"written, 399 and 2", full.disk(), writing(manyOps(2)...), impl.StFull},
 		{"written, 399 and 2, and no power", full.disk(), powered(writing(manyOps(2)...), 0), impl.StFull},
 		{"written, 398 in tables, 1 in the log, and 2", inTables(398, batchLog(399, []impl.Op{del("x")})).disk(), writing(manyOps(2)...), impl.StFull},
-		{"written, 200 ops of the disk", busy(200, tables), writing(set("a", "x")), impl.StFull},
-		{"written, 199 ops of the disk", busy(199, tables), sure(set("a", "x")), impl.StOk},
-		{"written, 200 ops of the disk, and no power", busy(200, tables), powered(writing(set("a", "x")), 0), impl.StPower},
+		{"written, 200 ops of the disk", busyDisk(200, tables), writing(set("a", "x")), impl.StFull},
+		{"written, 199 ops of the disk", busyDisk(199, tables), sure(set("a", "x")), impl.StOk},
+		{"written, 200 ops of the disk, and no power", busyDisk(200, tables), powered(writing(set("a", "x")), 0), impl.StPower},
 		{"written, too many bytes", packed.disk(), writing(set("a", strings.Repeat("v", 30))), impl.StFull},
 		{"written, no more power than for it", tables.disk(), powered(sure(set("a", "x")), 1), impl.StPower},
 		{"written without Sync, no more power than for it", tables.disk(), powered(writing(set("a", "x")), 1), impl.StOk},
+	})
+}
+
+func TestP16CodesOfTablesAndCrashes(t *testing.T) {
+	tables, good := draftOfStore(8, "", fewTables()...), batchLog(9, fewBatches()...)
+	torn, packed := tables.with("log-7", good+"x"), packedStore(tables.with("log-7", good), 30)
+	late := tables
+	late.version.Next = 999999
+	wide, less := bareStore(versionOf(2, 0, 1)).with("log-1", wideLog(1, 15)), bareStore(versionOf(2, 0, 1)).with("log-1", wideLog(1, 11))
+	files := tables.with("log-7", good).disk().Live
+	crowded := synced(append(manyFiles(60-len(files)), files...))
+	holdCodes(t, []codeCase{
 		{"a flush, torn", torn.disk(), acting(impl.AcFlush), impl.StTorn},
 		{"a flush, torn, and no entries", tables.with("log-7", "x").disk(), acting(impl.AcFlush), impl.StTorn},
 		{"a flush of nothing without power", tables.disk(), powered(acting(impl.AcFlush), 0), impl.StOk},
@@ -1154,22 +1179,22 @@ func TestP16CodesThatAreTold(t *testing.T) {
 		{"a flush, 29 tables", manyTables(29, batchLog(30, fewBatches()...)).disk(), acting(impl.AcFlush), impl.StOk},
 		{"a flush, too much for a table", wide.disk(), acting(impl.AcFlush), impl.StFull},
 		{"a flush, too much for a table, and no power", wide.disk(), powered(acting(impl.AcFlush), 0), impl.StFull},
-		{"a flush, less for a table of another shape", bareStore(versionOf(2, 0, 1)).with("log-1", wideLog(1, 11)).disk(), impl.Act{Kind: impl.AcFlush, Shape: shape(16, 4000, 0), Power: -1}, impl.StOk},
-		{"a flush, the same for a table of small blocks", bareStore(versionOf(2, 0, 1)).with("log-1", wideLog(1, 11)).disk(), impl.Act{Kind: impl.AcFlush, Shape: shape(1, 20, 0), Power: -1}, impl.StFull},
+		{"a flush, less for a table of another shape", less.disk(), impl.Act{Kind: impl.AcFlush, Shape: shape(16, 4000, 0), Power: -1}, impl.StOk},
+		{"a flush, the same for a table of small blocks", less.disk(), impl.Act{Kind: impl.AcFlush, Shape: shape(1, 20, 0), Power: -1}, impl.StFull},
 		{"a flush, 60 files", crowded, acting(impl.AcFlush), impl.StFull},
 		{"a flush, too many bytes", packed.disk(), acting(impl.AcFlush), impl.StFull},
-		{"a flush, 200 ops of the disk", busy(200, tables.with("log-7", good)), acting(impl.AcFlush), impl.StFull},
-		{"a flush, 199 ops of the disk", busy(199, tables.with("log-7", good)), acting(impl.AcFlush), impl.StOk},
+		{"a flush, 200 ops of the disk", busyDisk(200, tables.with("log-7", good)), acting(impl.AcFlush), impl.StFull},
+		{"a flush, 199 ops of the disk", busyDisk(199, tables.with("log-7", good)), acting(impl.AcFlush), impl.StOk},
 		{"compacted, torn", torn.disk(), acting(impl.AcCompact), impl.StTorn},
 		{"compacted, torn, no tables", bareStore(versionOf(2, 0, 1)).with("log-1", "x").disk(), acting(impl.AcCompact), impl.StTorn},
 		{"compacted, no tables, and no power", bareStore(versionOf(2, 0, 1)).disk(), powered(acting(impl.AcCompact), 0), impl.StOk},
 		{"compacted, 30 tables", manyTables(30, "").disk(), acting(impl.AcCompact), impl.StOk},
 		{"compacted, no number left", late.disk(), acting(impl.AcCompact), impl.StFull},
 		{"compacted, too much for a table", draftOfStore(1<<39, "", wideRow(150, 200), eachUser(150, 1, strings.Repeat("v", 200))).disk(), acting(impl.AcCompact), impl.StFull},
-		{"opened, 200 ops of the disk", busy(200, tables), acting(impl.AcOpen), impl.StFull},
+		{"opened, 200 ops of the disk", busyDisk(200, tables), acting(impl.AcOpen), impl.StFull},
 		{"opened, 200 ops of the disk, and nothing to do", diskByHand(tables.disk().Live, slices.Repeat([]impl.DOp{behind("log-7", "")}, 200)...), acting(impl.AcOpen), impl.StOk},
-		{"opened, torn, 199 ops and a file to remove", busy(199, torn), acting(impl.AcOpen), impl.StFull},
-		{"opened, torn, 198 ops and a file to remove", busy(198, torn), acting(impl.AcOpen), impl.StOk},
+		{"opened, torn, 199 ops and a file to remove", busyDisk(199, torn), acting(impl.AcOpen), impl.StFull},
+		{"opened, torn, 198 ops and a file to remove", busyDisk(198, torn), acting(impl.AcOpen), impl.StOk},
 		{"opened, torn, no number left", late.with("log-7", "x").disk(), acting(impl.AcOpen), impl.StFull},
 		{"opened, torn, no number left, no power for what goes first", late.with("log-7", "x", "a", "").disk(), powered(acting(impl.AcOpen), 0), impl.StPower},
 		{"opened, torn, too much for a table", wide.with("log-1", wideLog(1, 15)+"x", "a", "b").disk(), acting(impl.AcOpen), impl.StFull},
@@ -1178,15 +1203,7 @@ func TestP16CodesThatAreTold(t *testing.T) {
 		{"a crash, no store, no form", impl.Disk{}, crashing(-1), impl.StForm},
 		{"a crash, a broken store, no form", tables.without("table-4").disk(), crashing(0, 0), impl.StForm},
 		{"a crash of nothing without power", tables.disk(), powered(crashing(0), 0), impl.StOk},
-	} {
-		got, code := holdDone(t, c.word, c.d, c.a)
-		if code != c.code {
-			t.Errorf("%s: %d, not %d", c.word, code, c.code)
-		}
-		if code != impl.StOk && code != impl.StPower && !sameDisk(got, c.d) {
-			t.Errorf("%s: %s", c.word, brief(got))
-		}
-	}
+	})
 }
 
 func TestP16BatchesThatAreWritten(t *testing.T) {
@@ -1306,6 +1323,17 @@ func TestP16CrashesOfAllForms(t *testing.T) {
 	}
 	if got, code := holdDone(t, "not renamed", d, crashing(0)); code != impl.StOk || !sameDisk(got, tables) {
 		t.Error("not renamed", code)
+	}
+	// What comes behind it is refused: the disk is as the crash left it.
+	late := draftOfStore(8, "", fewTables()...)
+	late.version.Next = 999999
+	d, _ = impl.StorePlay(late.with("other", "x").disk(), []impl.Act{writing(set("a", "new")), writing(set("b", "new"))})
+	for torn := range int64(len(d.Ops[1].Data) + 2) {
+		left, _ := impl.Crash(d, []int64{0, 1}, torn)
+		got, code := holdDone(t, "no number left", d, crashing(torn, 0, 1))
+		if whole := torn == 0 || torn >= int64(len(d.Ops[1].Data)); whole != (code == impl.StOk) || !whole && (code != impl.StFull || !sameDisk(got, left)) {
+			t.Errorf("no number left, torn at %d: %d, %s", torn, code, brief(got))
+		}
 	}
 	// There would be too many files behind it.
 	many := synced(append(manyFiles(60-len(tables.Live)), tables.Live...))
